@@ -1,0 +1,61 @@
+// Package place: points as places of the plane.
+package place
+
+import "overlay/api"
+
+// IsGrid tells whether p is a grid point.
+func IsGrid(p api.Point) bool {
+	if p.D != 1 {
+		return false
+	}
+	if p.X < -api.MaxCoord || p.X > api.MaxCoord {
+		return false
+	}
+	return p.Y >= -api.MaxCoord && p.Y <= api.MaxCoord
+}
+
+// Compare answers a number below 0 if the good point p is ahead of the good point q in the order of places, 0 if they are the same place, else one above 0.
+func Compare(p api.Point, q api.Point) int {
+	x := p.X*q.D - q.X*p.D
+	if x != 0 {
+		return x
+	}
+	return p.Y*q.D - q.Y*p.D
+}
+
+// First gives the one of two good points that is ahead in the order of places.
+func First(p api.Point, q api.Point) api.Point {
+	if Compare(q, p) < 0 {
+		return q
+	}
+	return p
+}
+
+// Last gives the one of two good points that is behind in the order of places.
+func Last(p api.Point, q api.Point) api.Point {
+	if Compare(q, p) > 0 {
+		return q
+	}
+	return p
+}
+
+// Least gives the point in least terms that means the place of p.
+func Least(p api.Point) api.Point {
+	g := divisor(p.X, p.Y)
+	g = divisor(g, p.D)
+	if g == 0 {
+		return p
+	}
+	return api.Point{X: p.X / g, Y: p.Y / g, D: p.D / g}
+}
+
+// divisor gives the greatest number that divides both a and b: 0 if both are 0.
+func divisor(a int, b int) int {
+	for b != 0 {
+		a, b = b, a%b
+	}
+	if a < 0 {
+		return -a
+	}
+	return a
+}

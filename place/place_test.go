@@ -1,0 +1,85 @@
+package place
+
+import (
+	"math"
+	"testing"
+
+	"overlay/api"
+)
+
+func TestIsGrid(t *testing.T) {
+	for _, p := range []api.Point{{X: 0, Y: 0, D: 1}, {X: 64, Y: -64, D: 1}, {X: -64, Y: 64, D: 1}} {
+		if !IsGrid(p) {
+			t.Errorf("IsGrid(%v) is false", p)
+		}
+	}
+	for _, p := range []api.Point{
+		{}, {D: -1}, {D: 2}, {X: 2, Y: 2, D: 2}, {D: math.MinInt}, {D: math.MaxInt},
+		{X: 65, D: 1}, {X: -65, D: 1}, {Y: 65, D: 1}, {Y: -65, D: 1},
+		{X: math.MinInt, D: 1}, {X: math.MaxInt, D: 1}, {Y: math.MinInt, D: 1}, {Y: math.MaxInt, D: 1},
+	} {
+		if IsGrid(p) {
+			t.Errorf("IsGrid(%v) is true", p)
+		}
+	}
+}
+
+func sign(n int) int {
+	if n < 0 {
+		return -1
+	}
+	if n > 0 {
+		return 1
+	}
+	return 0
+}
+
+func TestCompare(t *testing.T) {
+	const m = api.MaxDen
+	for _, c := range []struct {
+		p, q api.Point
+		want int
+	}{
+		{api.Point{X: 1, Y: 5, D: 1}, api.Point{X: 2, Y: 0, D: 1}, -1},
+		{api.Point{X: 1, Y: 1, D: 1}, api.Point{X: 1, Y: 2, D: 1}, -1},
+		{api.Point{X: -1, Y: 1, D: 1}, api.Point{X: 1, Y: -1, D: 1}, -1},
+		{api.Point{X: 1, Y: 0, D: 2}, api.Point{X: 1, Y: 0, D: 1}, -1},
+		{api.Point{X: 1, Y: 1, D: 3}, api.Point{X: 1, Y: 1, D: 2}, -1},
+		{api.Point{X: -1, Y: 0, D: 2}, api.Point{X: -1, Y: 0, D: 3}, -1},
+		{api.Point{X: 2, Y: 4, D: 2}, api.Point{X: 1, Y: 2, D: 1}, 0},
+		{api.Point{X: 64*m - 1, Y: 0, D: m}, api.Point{X: 64, Y: 0, D: 1}, -1},
+		{api.Point{X: -64 * m, Y: -64 * m, D: m}, api.Point{X: 64*m - 64, Y: 0, D: m - 1}, -1},
+	} {
+		there, back := Compare(c.p, c.q), Compare(c.q, c.p)
+		if sign(there) != c.want || sign(back) != -c.want {
+			t.Errorf("Compare(%v, %v) = %d, the other way %d, want sign %d", c.p, c.q, there, back, c.want)
+		}
+	}
+}
+
+func TestFirstAndLast(t *testing.T) {
+	p, q := api.Point{X: 1, Y: 5, D: 2}, api.Point{X: 1, Y: 0, D: 1}
+	if First(p, q) != p || First(q, p) != p {
+		t.Errorf("First is not %v", p)
+	}
+	if Last(p, q) != q || Last(q, p) != q {
+		t.Errorf("Last is not %v", q)
+	}
+}
+
+func TestLeast(t *testing.T) {
+	for _, c := range []struct{ p, want api.Point }{
+		{api.Point{X: 6, Y: 4, D: 2}, api.Point{X: 3, Y: 2, D: 1}},
+		{api.Point{X: -6, Y: 9, D: 12}, api.Point{X: -2, Y: 3, D: 4}},
+		{api.Point{X: 6, Y: -9, D: 12}, api.Point{X: 2, Y: -3, D: 4}},
+		{api.Point{X: 0, Y: 0, D: 7}, api.Point{X: 0, Y: 0, D: 1}},
+		{api.Point{X: 0, Y: -8, D: 16}, api.Point{X: 0, Y: -1, D: 2}},
+		{api.Point{X: 6, Y: 10, D: 15}, api.Point{X: 6, Y: 10, D: 15}},
+		{api.Point{X: 4, Y: 4, D: 3}, api.Point{X: 4, Y: 4, D: 3}},
+		{api.Point{}, api.Point{}},
+	} {
+		if got := Least(c.p); got != c.want {
+			t.Errorf("Least(%v) = %v, want %v", c.p, got, c.want)
+		}
+	}
+}
