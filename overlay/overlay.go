@@ -3,6 +3,7 @@ package overlay
 
 import (
 	"overlay/api"
+	"overlay/cut"
 	"overlay/place"
 	"overlay/polygon"
 	"overlay/segment"
@@ -32,10 +33,28 @@ func Check(p [][]api.Point) (api.Errno, int) {
 }
 
 // Locate tells where a point lies (P5).
-func Locate(p [][]api.Point, q api.Point) (int, api.Errno) { return 0, api.OK }
+func Locate(p [][]api.Point, q api.Point) (int, api.Errno) {
+	return polygon.Locate(p, q)
+}
 
 // Pieces cuts the edges of two polygons wherever they meet (P6).
-func Pieces(a [][]api.Point, b [][]api.Point) ([]api.Piece, api.Errno) { return nil, api.OK }
+func Pieces(a [][]api.Point, b [][]api.Point) ([]api.Piece, api.Errno) {
+	e := checkBoth(a, b)
+	if e != api.OK {
+		return nil, e
+	}
+	return cut.Pieces(a, b), api.OK
+}
+
+// checkBoth gives the error of Check(a) or, if there is none, that of Check(b).
+func checkBoth(a [][]api.Point, b [][]api.Point) api.Errno {
+	e, _ := polygon.Check(a)
+	if e != api.OK {
+		return e
+	}
+	e, _ = polygon.Check(b)
+	return e
+}
 
 // Clip gives the rings of what two polygons make together (P7).
 func Clip(op int, a [][]api.Point, b [][]api.Point) ([][]api.Point, api.Errno) {

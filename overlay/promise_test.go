@@ -26,6 +26,10 @@ func isGridPoint(p api.Point) bool {
 	return p.D == 1 && p.X >= -64 && p.X <= 64 && p.Y >= -64 && p.Y <= 64
 }
 
+func isGoodPoint(p api.Point) bool {
+	return p.D >= 1 && p.D <= 32768 && p.X >= -64*p.D && p.X <= 64*p.D && p.Y >= -64*p.D && p.Y <= 64*p.D
+}
+
 // wantMeetError: the error that stands first, told by the document's words alone.
 func wantMeetError(a, b, c, d api.Point) api.Errno {
 	if !isGridPoint(a) || !isGridPoint(b) || !isGridPoint(c) || !isGridPoint(d) {
@@ -71,10 +75,7 @@ func TestCheckAtAllListsP1(t *testing.T) {
 	long := make([]api.Point, 1<<20)
 	for count := range 7 {
 		for _, r := range [][]api.Point{nil, {}, make([]api.Point, 1), make([]api.Point, 2), long} {
-			l := make([][]api.Point, count)
-			for i := range l {
-				l[i] = r
-			}
+			l := slices.Repeat(rings(r), count)
 			want := api.ErrCount
 			if count == 0 {
 				want = api.OK
@@ -84,6 +85,78 @@ func TestCheckAtAllListsP1(t *testing.T) {
 			}
 			if e, n := Check(l); e != want || n != 0 {
 				t.Errorf("Check of %d rings of %d points = %d, %d, want %d, 0", count, len(r), e, n, want)
+			}
+		}
+	}
+}
+
+func TestLocateAtAllNumbersP1(t *testing.T) {
+	for _, p := range wildPoints() {
+		want := api.ErrPoint
+		if isGoodPoint(p) {
+			want = api.OK
+		}
+		for _, c := range []struct {
+			p [][]api.Point
+			q api.Point
+		}{{rings(ring(-3, -7, 2, 9, 9, 2)), p}, {rings([]api.Point{at(-3, -7), p, at(9, 2)}), at(2, 2)}, {rings([]api.Point{p}), p}, {rings(nil, []api.Point{p, p}), at(0, 0)}} {
+			n, e := Locate(c.p, c.q)
+			if e != want || e != api.OK && n != 0 {
+				t.Errorf("Locate(%v, %v) = %d, %d, want the error %d", c.p, c.q, n, e, want)
+			}
+		}
+	}
+}
+
+func TestLocateAtAllListsP1(t *testing.T) {
+	long := make([]api.Point, 1<<20)
+	for _, count := range []int{0, 1, 2, 3, 1000, 100000} {
+		for _, r := range [][]api.Point{nil, {}, {{}}, {at(0, 0)}, {at(0, 0), at(0, 0)}, long} {
+			l := slices.Repeat(rings(r), count)
+			where, want := 0, api.OK
+			if count > 0 && len(r) > 0 {
+				where, want = api.On, api.OK
+				if r[0] != at(0, 0) {
+					where, want = 0, api.ErrPoint
+				}
+				if count*len(r) > 2000 {
+					where, want = 0, api.ErrCount
+				}
+			}
+			if n, e := Locate(l, at(0, 0)); n != where || e != want {
+				t.Errorf("Locate in %d rings of %d points = %d, %d, want %d, %d", count, len(r), n, e, where, want)
+			}
+		}
+	}
+}
+
+func TestPiecesAtAllNumbersP1(t *testing.T) {
+	good := rings(box(-4, -4, 4, 4))
+	for _, p := range wildPoints() {
+		want := api.ErrPoint
+		if isGridPoint(p) {
+			want = api.OK
+		}
+		l := rings([]api.Point{at(-3, -7), p, at(9, 2)})
+		for _, c := range [][2][][]api.Point{{l, good}, {good, l}, {l, l}, {nil, l}} {
+			pieces, e := Pieces(c[0], c[1])
+			if e != want || (e == api.OK) != (len(pieces) > 0) || e != api.OK && pieces != nil {
+				t.Errorf("Pieces(%v, %v) = %v, %d, want the error %d", c[0], c[1], pieces, e, want)
+			}
+		}
+	}
+}
+
+func TestPiecesAtAllListsP1(t *testing.T) {
+	long := make([]api.Point, 1<<20)
+	for count := range 7 {
+		for _, r := range [][]api.Point{nil, {}, make([]api.Point, 1), make([]api.Point, 2), long} {
+			l := slices.Repeat(rings(r), count)
+			want, _ := Check(l)
+			for _, c := range [][2][][]api.Point{{l, nil}, {nil, l}, {l, l}} {
+				if pieces, e := Pieces(c[0], c[1]); e != want || pieces != nil && e != api.OK || len(pieces) > 0 {
+					t.Errorf("Pieces of %d rings of %d points = %v, %d, want the error %d", count, len(r), pieces, e, want)
+				}
 			}
 		}
 	}
@@ -164,5 +237,98 @@ func TestMeetKeepsNothingP2(t *testing.T) {
 		if m, e := Meet(at(0, 0), at(0, 0), at(6, 0), at(2, 0)); m != (api.Meeting{}) || e != api.ErrEdge {
 			t.Errorf("round %d: the refusal became %+v, %d", round, m, e)
 		}
+	}
+}
+
+// witness: a polygon laid out with spare room, and what it was before.
+type witness struct {
+	p      [][]api.Point
+	flat   []api.Point
+	spare  [][]api.Point
+	before [][]api.Point
+	marks  []api.Point
+}
+
+func watch(p [][]api.Point) witness {
+	l, flat, spare := roomy(p)
+	return witness{p: l, flat: flat[:cap(flat)], spare: spare, before: copyPolygon(spare), marks: slices.Clone(flat[:cap(flat)])}
+}
+
+func (w witness) isChanged() bool {
+	return !slices.Equal(w.flat, w.marks) || !samePolygon(w.spare, w.before)
+}
+
+// somePolygons: some that Check takes, and some that it does not.
+func somePolygons() [][][]api.Point {
+	return append(faults(), nil, rings(box(0, 0, 4, 4)), rings(box(2, 2, 6, 6), ring(0, 1, 3, 0, 7, 9)), rings(ring(0, 0, 4, 4, 4, 0, 0, 4)), rings(ring(0, 0, 3, 0, 0, 3)))
+}
+
+func TestLocateLeavesItsArgumentP2(t *testing.T) {
+	for _, p := range somePolygons() {
+		for _, q := range []api.Point{at(1, 2), over(1, 1, 2), at(2, 2), at(40, 40), {}} {
+			wantN, wantE := Locate(p, q)
+			w := watch(p)
+			n, e := Locate(w.p, q)
+			if n != wantN || e != wantE {
+				t.Errorf("Locate(%v, %v) = %d, %d, then %d, %d", p, q, wantN, wantE, n, e)
+			}
+			if w.isChanged() {
+				t.Errorf("Locate(%v, %v) wrote into what it was handed", p, q)
+			}
+		}
+	}
+}
+
+func TestLocateKeepsNothingP2(t *testing.T) {
+	p := rings(ring(0, 0, 4, 0, 0, 4))
+	for round := range 3 {
+		for _, c := range []struct {
+			corner api.Point
+			want   int
+		}{{at(0, 4), api.In}, {at(2, 2), api.On}, {at(0, -4), api.Out}} {
+			p[0][2] = c.corner
+			if n, e := Locate(p, at(1, 1)); n != c.want || e != api.OK {
+				t.Errorf("round %d: Locate(%v, ..) = %d, %d, want %d", round, p, n, e, c.want)
+			}
+		}
+	}
+}
+
+func TestPiecesLeavesItsArgumentsP2(t *testing.T) {
+	for _, a := range somePolygons() {
+		for _, b := range somePolygons() {
+			want, wantE := Pieces(a, b)
+			v, w := watch(a), watch(b)
+			l, e := Pieces(v.p, w.p)
+			if !slices.Equal(l, want) || e != wantE {
+				t.Errorf("Pieces(%v, %v) = %v, %d, then %v, %d", a, b, want, wantE, l, e)
+			}
+			if v.isChanged() || w.isChanged() {
+				t.Errorf("Pieces(%v, %v) wrote into what it was handed", a, b)
+			}
+			// The same lists twice, too.
+			twice, _ := Pieces(v.p, v.p)
+			if v.isChanged() {
+				t.Errorf("Pieces of %v and itself wrote into it: %v", a, twice)
+			}
+		}
+	}
+}
+
+func TestPiecesComeFreshP2(t *testing.T) {
+	a, b := rings(box(0, 0, 4, 4)), rings(box(2, 2, 6, 6))
+	first, _ := Pieces(a, b)
+	want := slices.Clone(first)
+	second, _ := Pieces(a, b)
+	first = first[:cap(first)]
+	for i := range first {
+		first[i] = api.Piece{P: at(7, 7), LeftB: true}
+	}
+	third, e := Pieces(a, b)
+	if !slices.Equal(second, want) || !slices.Equal(third, want) || e != api.OK {
+		t.Errorf("when the first pieces were written into, the second became %v, the third %v, %d", second, third, e)
+	}
+	if !samePolygon(a, rings(box(0, 0, 4, 4))) || !samePolygon(b, rings(box(2, 2, 6, 6))) {
+		t.Errorf("writing into the pieces changed the polygons: %v, %v", a, b)
 	}
 }

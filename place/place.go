@@ -3,15 +3,24 @@ package place
 
 import "overlay/api"
 
+// IsGood tells whether p is a good point.
+func IsGood(p api.Point) bool {
+	if p.D < 1 || p.D > api.MaxDen {
+		return false
+	}
+	rim := api.MaxCoord * p.D
+	if p.X < -rim || p.X > rim {
+		return false
+	}
+	return p.Y >= -rim && p.Y <= rim
+}
+
 // IsGrid tells whether p is a grid point.
 func IsGrid(p api.Point) bool {
 	if p.D != 1 {
 		return false
 	}
-	if p.X < -api.MaxCoord || p.X > api.MaxCoord {
-		return false
-	}
-	return p.Y >= -api.MaxCoord && p.Y <= api.MaxCoord
+	return IsGood(p)
 }
 
 // Compare answers a number below 0 if the good point p is ahead of the good point q in the order of places, 0 if they are the same place, else one above 0.
@@ -37,6 +46,15 @@ func Last(p api.Point, q api.Point) api.Point {
 		return q
 	}
 	return p
+}
+
+// Side is 0 if the good point p lies on one line with the good points a and b, above 0 if it lies to the left of one who goes from a to b, below 0 if to the right.
+func Side(a api.Point, b api.Point, p api.Point) int {
+	// The determinant of three good points stays within 64 bits; that of the places themselves has the same sign, as no D is below 0.
+	byX := a.Y*b.D - b.Y*a.D
+	byY := b.X*a.D - a.X*b.D
+	byD := a.X*b.Y - b.X*a.Y
+	return byX*p.X + byY*p.Y + byD*p.D
 }
 
 // Least gives the point in least terms that means the place of p.

@@ -7,6 +7,29 @@ import (
 	"overlay/api"
 )
 
+func TestIsGood(t *testing.T) {
+	const m = api.MaxDen
+	for _, p := range []api.Point{
+		{D: 1}, {D: m}, {X: 64, Y: -64, D: 1}, {X: -64, Y: 64, D: 1}, {X: 2, Y: 2, D: 2},
+		{X: 128, Y: -128, D: 2}, {X: 64 * m, Y: -64 * m, D: m}, {X: -64 * m, Y: 64 * m, D: m},
+	} {
+		if !IsGood(p) {
+			t.Errorf("IsGood(%v) is false", p)
+		}
+	}
+	for _, p := range []api.Point{
+		{}, {D: -1}, {D: m + 1}, {X: 1, Y: 1, D: -1}, {D: math.MinInt}, {D: math.MaxInt}, {D: 1<<32 + 1},
+		{X: 65, D: 1}, {X: -65, D: 1}, {Y: 65, D: 1}, {Y: -65, D: 1},
+		{X: 129, D: 2}, {X: -129, D: 2}, {Y: 129, D: 2}, {Y: -129, D: 2},
+		{X: 64*m + 1, D: m}, {X: -64*m - 1, D: m}, {Y: 64*m + 1, D: m}, {Y: -64*m - 1, D: m},
+		{X: math.MinInt, D: m}, {X: math.MaxInt, D: m}, {Y: math.MinInt, D: m}, {Y: math.MaxInt, D: m},
+	} {
+		if IsGood(p) {
+			t.Errorf("IsGood(%v) is true", p)
+		}
+	}
+}
+
 func TestIsGrid(t *testing.T) {
 	for _, p := range []api.Point{{X: 0, Y: 0, D: 1}, {X: 64, Y: -64, D: 1}, {X: -64, Y: 64, D: 1}} {
 		if !IsGrid(p) {
@@ -64,6 +87,32 @@ func TestFirstAndLast(t *testing.T) {
 	}
 	if Last(p, q) != q || Last(q, p) != q {
 		t.Errorf("Last is not %v", q)
+	}
+}
+
+func TestSide(t *testing.T) {
+	const m = api.MaxDen
+	for _, c := range []struct {
+		a, b, p api.Point
+		want    int
+	}{
+		{api.Point{D: 1}, api.Point{X: 4, Y: 2, D: 1}, api.Point{X: 1, Y: 1, D: 1}, 1},
+		{api.Point{D: 1}, api.Point{X: 4, Y: 2, D: 1}, api.Point{X: 1, Y: 0, D: 1}, -1},
+		{api.Point{D: 1}, api.Point{X: 4, Y: 2, D: 1}, api.Point{X: -2, Y: -1, D: 1}, 0},
+		{api.Point{D: 7}, api.Point{X: 3, Y: 3, D: 2}, api.Point{X: 5, Y: 5, D: 9}, 0},
+		{api.Point{X: 1, Y: 2, D: 3}, api.Point{X: 3, Y: 6, D: 9}, api.Point{X: 5, Y: 4, D: 1}, 0},
+		{api.Point{X: 1, Y: 0, D: 2}, api.Point{X: 1, Y: 2, D: 2}, api.Point{X: 1, Y: 1, D: 3}, 1},
+		{api.Point{X: 1, Y: 0, D: 2}, api.Point{X: 1, Y: 2, D: 2}, api.Point{X: 2, Y: 1, D: 3}, -1},
+		{api.Point{X: -64 * m, Y: -64 * m, D: m}, api.Point{X: 64 * m, Y: -64 * m, D: m}, api.Point{X: 64 * m, Y: 64 * m, D: m}, 1},
+		{api.Point{X: -64 * m, Y: -64 * m, D: m}, api.Point{X: 64 * m, Y: 64 * m, D: m}, api.Point{X: m - 1, Y: m - 2, D: m - 3}, -1},
+		{api.Point{X: -64 * m, Y: -64 * m, D: m}, api.Point{X: 64 * m, Y: 64 * m, D: m}, api.Point{X: 5, Y: 5, D: m - 1}, 0},
+	} {
+		for _, l := range [][3]api.Point{{c.a, c.b, c.p}, {c.b, c.p, c.a}, {c.p, c.a, c.b}} {
+			there, back := Side(l[0], l[1], l[2]), Side(l[1], l[0], l[2])
+			if sign(there) != c.want || sign(back) != -c.want {
+				t.Errorf("Side(%v) = %d, the other way %d, want sign %d", l, there, back, c.want)
+			}
+		}
 	}
 }
 

@@ -1,4 +1,4 @@
-// Package segment: segments between grid points, and how two of them lie.
+// Package segment: segments, how two of them lie, and how they lie to a place.
 package segment
 
 import (
@@ -6,7 +6,7 @@ import (
 	"overlay/place"
 )
 
-// Segment: A, B and all places between them.
+// Segment: A, B and all places between them. A and B are good points.
 type Segment struct {
 	A, B api.Point
 }
@@ -28,6 +28,40 @@ func (v way) cross(w way) int {
 // IsEmpty tells whether both ends of s, two grid points, are the same.
 func (s Segment) IsEmpty() bool {
 	return s.A == s.B
+}
+
+// Forward gives s as one goes along it in the order of places.
+func (s Segment) Forward() Segment {
+	first := place.First(s.A, s.B)
+	last := place.Last(s.A, s.B)
+	return Segment{A: first, B: last}
+}
+
+// Spans tells whether p, a good point, is neither ahead of s in the order of places nor behind it: it may be where s begins, but not where s ends.
+func (s Segment) Spans(p api.Point) bool {
+	forward := s.Forward()
+	if place.Compare(p, forward.A) < 0 {
+		return false
+	}
+	return place.Compare(p, forward.B) < 0
+}
+
+// Side tells where p, a good point, lies to one who goes along s in the order of places: 0 if straight ahead or behind, above 0 if to the left, below 0 if to the right.
+func (s Segment) Side(p api.Point) int {
+	forward := s.Forward()
+	return place.Side(forward.A, forward.B, p)
+}
+
+// Has tells whether the place p, a good point, is on s.
+func (s Segment) Has(p api.Point) bool {
+	forward := s.Forward()
+	if place.Compare(p, forward.A) < 0 {
+		return false
+	}
+	if place.Compare(p, forward.B) > 0 {
+		return false
+	}
+	return place.Side(forward.A, forward.B, p) == 0
 }
 
 // Meet tells how s and t lie. Their ends are grid points, and neither is empty.
@@ -72,12 +106,10 @@ func meetParallel(s Segment, t Segment) api.Meeting {
 
 // meetOnLine tells how two segments of one line lie.
 func meetOnLine(s Segment, t Segment) api.Meeting {
-	firstS := place.First(s.A, s.B)
-	firstT := place.First(t.A, t.B)
-	lastS := place.Last(s.A, s.B)
-	lastT := place.Last(t.A, t.B)
-	from := place.Last(firstS, firstT)
-	to := place.First(lastS, lastT)
+	forwardS := s.Forward()
+	forwardT := t.Forward()
+	from := place.Last(forwardS.A, forwardT.A)
+	to := place.First(forwardS.B, forwardT.B)
 	order := place.Compare(from, to)
 	if order > 0 {
 		return api.Meeting{}
