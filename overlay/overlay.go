@@ -3,6 +3,7 @@ package overlay
 
 import (
 	"overlay/api"
+	"overlay/border"
 	"overlay/cut"
 	"overlay/place"
 	"overlay/polygon"
@@ -58,7 +59,15 @@ func checkBoth(a [][]api.Point, b [][]api.Point) api.Errno {
 
 // Clip gives the rings of what two polygons make together (P7).
 func Clip(op int, a [][]api.Point, b [][]api.Point) ([][]api.Point, api.Errno) {
-	return nil, api.OK
+	if op < api.And || op > api.Xor {
+		return nil, api.ErrOp
+	}
+	e := checkBoth(a, b)
+	if e != api.OK {
+		return nil, e
+	}
+	pieces := cut.Pieces(a, b)
+	return border.Rings(op, pieces), api.OK
 }
 
 // Nest tells which of the rings are holes, and in which others (P8).

@@ -162,6 +162,45 @@ func TestPiecesAtAllListsP1(t *testing.T) {
 	}
 }
 
+func TestClipAtAllNumbersP1(t *testing.T) {
+	good := rings(box(-4, -4, 4, 4))
+	for _, p := range wildPoints() {
+		l := rings([]api.Point{at(-3, -7), p, at(9, 2)})
+		for _, op := range []int{math.MinInt, -1, 0, 1, 2, 3, 4, 5, math.MaxInt} {
+			want := api.OK
+			if !isGridPoint(p) {
+				want = api.ErrPoint
+			}
+			if op < 0 || op > 4 {
+				want = api.ErrOp
+			}
+			for _, c := range [][2][][]api.Point{{l, good}, {good, l}, {l, l}, {nil, l}} {
+				got, e := Clip(op, c[0], c[1])
+				if e != want || e != api.OK && got != nil {
+					t.Errorf("Clip(%d, %v, %v) = %v, %d, want the error %d", op, c[0], c[1], got, e, want)
+				}
+			}
+		}
+	}
+}
+
+func TestClipAtAllListsP1(t *testing.T) {
+	long := make([]api.Point, 1<<20)
+	for count := range 7 {
+		for _, r := range [][]api.Point{nil, {}, make([]api.Point, 1), make([]api.Point, 2), long} {
+			l := slices.Repeat(rings(r), count)
+			want, _ := Check(l)
+			for op := range 5 {
+				for _, c := range [][2][][]api.Point{{l, nil}, {nil, l}, {l, l}} {
+					if got, e := Clip(op, c[0], c[1]); e != want || got != nil && e != api.OK || len(got) > 0 {
+						t.Errorf("Clip(%d, ..) of %d rings of %d points = %v, %d, want the error %d", op, count, len(r), got, e, want)
+					}
+				}
+			}
+		}
+	}
+}
+
 // roomy gives p again, laid out so that its lists have spare room with marks in it; then the list in which its rings lie, and the list whose beginning it is.
 func roomy(p [][]api.Point) ([][]api.Point, []api.Point, [][]api.Point) {
 	mark := api.Point{X: 11, Y: 22, D: 33}
@@ -330,5 +369,102 @@ func TestPiecesComeFreshP2(t *testing.T) {
 	}
 	if !samePolygon(a, rings(box(0, 0, 4, 4))) || !samePolygon(b, rings(box(2, 2, 6, 6))) {
 		t.Errorf("writing into the pieces changed the polygons: %v, %v", a, b)
+	}
+}
+
+func TestClipLeavesItsArgumentsP2(t *testing.T) {
+	for _, a := range somePolygons() {
+		for _, b := range somePolygons() {
+			for op := -1; op <= 5; op++ {
+				want, wantE := Clip(op, a, b)
+				v, w := watch(a), watch(b)
+				l, e := Clip(op, v.p, w.p)
+				if !samePolygon(l, want) || e != wantE {
+					t.Errorf("Clip(%d, %v, %v) = %v, %d, then %v, %d", op, a, b, want, wantE, l, e)
+				}
+				// Nothing of what came out lies in what was handed in.
+				scribble(l)
+				if v.isChanged() || w.isChanged() {
+					t.Errorf("Clip(%d, %v, %v) wrote into what it was handed, or answered with it", op, a, b)
+				}
+				// The same lists twice, too.
+				twice, _ := Clip(op, v.p, v.p)
+				scribble(twice)
+				if v.isChanged() {
+					t.Errorf("Clip(%d, ..) of %v and itself wrote into it, or answered with it", op, a)
+				}
+			}
+		}
+	}
+}
+
+// scribble writes into all lists and into their spare room.
+func scribble(l [][]api.Point) {
+	for _, r := range l {
+		r = r[:cap(r)]
+		for i := range r {
+			r[i] = api.Point{X: 44, Y: 55, D: 66}
+		}
+	}
+	l = l[:cap(l)]
+	for i := range l {
+		l[i] = []api.Point{at(7, 7)}
+	}
+}
+
+func TestClipComesFreshP2(t *testing.T) {
+	a, b := rings(box(0, 0, 9, 9), box(3, 3, 6, 6)), rings(box(1, 1, 8, 8), box(4, 4, 5, 5))
+	for op := range 5 {
+		first, _ := Clip(op, a, b)
+		want := copyPolygon(first)
+		second, _ := Clip(op, a, b)
+		scribble(first)
+		third, e := Clip(op, a, b)
+		if !samePolygon(second, want) || !samePolygon(third, want) || e != api.OK {
+			t.Errorf("when the first rings of operation %d were written into, the second became %v, the third %v, %d", op, second, third, e)
+		}
+	}
+}
+
+// TestClipSharesNoRoomP2: each ring is written into, with its spare room, while the others must stay.
+func TestClipSharesNoRoomP2(t *testing.T) {
+	a, b := rings(ring(0, 0, 9, 9, 9, 5, 0, 7, 1, 3)), rings(box(1, 1, 8, 8), ring(-2, 4, 5, 9, 4, -3))
+	for op := range 5 {
+		l, _ := Clip(op, a, b)
+		if len(l) < 2 {
+			t.Fatalf("operation %d has few rings: %v", op, l)
+		}
+		for i := range l {
+			// A fresh answer each time, so that each ring is the first to be written into.
+			l, _ := Clip(op, a, b)
+			want := copyPolygon(l)
+			scribble(l[i : i+1 : i+1])
+			l[i] = want[i]
+			if !samePolygon(l, want) {
+				t.Errorf("operation %d: writing into ring %d made of %v %v", op, i, want, l)
+			}
+		}
+	}
+}
+
+func TestClipKeepsNothingP2(t *testing.T) {
+	a, b := rings(ring(0, 0, 4, 0, 0, 4)), rings(ring(0, 0, 4, 0, 0, 4))
+	for round := range 3 {
+		for _, c := range []struct {
+			op     int
+			corner api.Point
+			want   [][]api.Point
+		}{
+			{api.And, at(4, 4), rings(ring(0, 0, 4, 0, 2, 2))}, {api.Or, at(4, 4), rings(ring(0, 0, 4, 0, 4, 4, 2, 2, 0, 4))}, {api.Minus, at(0, 4), nil},
+			{api.Minus, at(4, 4), rings(ring(0, 0, 2, 2, 0, 4))}, {api.Back, at(4, 4), rings(ring(2, 2, 4, 0, 4, 4))}, {api.And, at(0, -4), nil},
+		} {
+			b[0][2] = c.corner
+			if l, e := Clip(c.op, a, b); !samePolygon(l, c.want) || e != api.OK {
+				t.Errorf("round %d: Clip(%d, %v, %v) = %v, %d, want %v", round, c.op, a, b, l, e, c.want)
+			}
+			if l, e := Clip(5, a, b); l != nil || e != api.ErrOp {
+				t.Errorf("round %d: the refusal became %v, %d", round, l, e)
+			}
+		}
 	}
 }

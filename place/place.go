@@ -32,6 +32,20 @@ func Compare(p api.Point, q api.Point) int {
 	return p.Y*q.D - q.Y*p.D
 }
 
+// CompareLists answers a number below 0 if the list l of good points is ahead of the list m in the order of lists, 0 if they are the same places throughout, else one above 0.
+func CompareLists(l []api.Point, m []api.Point) int {
+	for i, p := range l {
+		if i >= len(m) {
+			break
+		}
+		order := Compare(p, m[i])
+		if order != 0 {
+			return order
+		}
+	}
+	return len(l) - len(m)
+}
+
 // First gives the one of two good points that is ahead in the order of places.
 func First(p api.Point, q api.Point) api.Point {
 	if Compare(q, p) < 0 {

@@ -132,3 +132,24 @@ func TestLeast(t *testing.T) {
 		}
 	}
 }
+
+func TestCompareLists(t *testing.T) {
+	a, b, c := api.Point{X: 1, Y: 5, D: 1}, api.Point{X: 3, Y: 0, D: 2}, api.Point{X: 3, Y: 1, D: 2}
+	again := api.Point{X: 6, Y: 0, D: 4}
+	for _, l := range []struct {
+		l, m []api.Point
+		want int
+	}{
+		{nil, nil, 0}, {nil, []api.Point{}, 0}, {nil, []api.Point{a}, -1},
+		{[]api.Point{a}, []api.Point{a}, 0}, {[]api.Point{a}, []api.Point{b}, -1},
+		{[]api.Point{a, c}, []api.Point{b, a}, -1}, {[]api.Point{a, c}, []api.Point{b}, -1}, {[]api.Point{a}, []api.Point{b, a}, -1},
+		{[]api.Point{a, b, c}, []api.Point{a, c, b}, -1}, {[]api.Point{a, b, c}, []api.Point{a, c}, -1},
+		{[]api.Point{a, b}, []api.Point{a, b, a}, -1}, {[]api.Point{a, b, c}, []api.Point{a, b, c, a, a}, -1},
+		{[]api.Point{a, b}, []api.Point{a, again}, 0}, {[]api.Point{again, a}, []api.Point{b, c}, -1}, {[]api.Point{again}, []api.Point{b, a}, -1},
+	} {
+		there, back := CompareLists(l.l, l.m), CompareLists(l.m, l.l)
+		if sign(there) != l.want || sign(back) != -l.want {
+			t.Errorf("CompareLists(%v, %v) = %d, the other way %d, want sign %d", l.l, l.m, there, back, l.want)
+		}
+	}
+}
