@@ -361,42 +361,50 @@ func TestClipComesGoodP7(t *testing.T) {
 	}
 }
 
-func refusesClip(t *testing.T, op int, a, b [][]api.Point, want api.Errno) {
-	t.Helper()
-	if l, e := Clip(op, a, b); l != nil || e != want {
-		t.Errorf("Clip(%d, %v, %v) = %v, %d, want %d", op, a, b, l, e, want)
-	}
+// refusal: what Clip and Nest have to refuse, and with which error.
+type refusal struct {
+	op   int
+	a, b [][]api.Point
+	want api.Errno
 }
 
-func TestClipRefusesOperationsP7(t *testing.T) {
+// badOps: with polygons that may be laid over another, and with such as may not.
+func badOps() []refusal {
 	good := rings(box(0, 0, 4, 4))
+	var out []refusal
 	for _, op := range []int{-1, 5, 6, 1 << 8, 1 << 32, -1 << 32, math.MaxInt, math.MinInt, math.MinInt + 4} {
-		refusesClip(t, op, good, good, api.ErrOp)
-		refusesClip(t, op, nil, nil, api.ErrOp)
+		out = append(out, refusal{op, good, good, api.ErrOp}, refusal{op, nil, nil, api.ErrOp})
 		for _, bad := range faults() {
-			refusesClip(t, op, bad, good, api.ErrOp)
-			refusesClip(t, op, good, bad, api.ErrOp)
+			out = append(out, refusal{op, bad, good, api.ErrOp}, refusal{op, good, bad, api.ErrOp})
 		}
 	}
+	return out
 }
 
-func TestClipRefusesPolygonsP7(t *testing.T) {
+// badPolygons: the one, the other and both.
+func badPolygons() []refusal {
 	good := rings(box(0, 0, 4, 4))
+	var out []refusal
 	for op := range 5 {
 		for i, bad := range faults() {
 			want := api.ErrRings + api.Errno(i)
-			refusesClip(t, op, bad, good, want)
-			refusesClip(t, op, good, bad, want)
-			refusesClip(t, op, nil, bad, want)
-			refusesClip(t, op, bad, nil, want)
+			out = append(out, refusal{op, bad, good, want}, refusal{op, good, bad, want}, refusal{op, nil, bad, want}, refusal{op, bad, nil, want})
 			for _, other := range faults() {
-				refusesClip(t, op, bad, other, want)
+				out = append(out, refusal{op, bad, other, want})
 			}
 		}
 		for _, bad := range badPoints() {
 			p := rings([]api.Point{at(0, 0), bad, at(0, 4)})
-			refusesClip(t, op, p, good, api.ErrPoint)
-			refusesClip(t, op, good, p, api.ErrPoint)
+			out = append(out, refusal{op, p, good, api.ErrPoint}, refusal{op, good, p, api.ErrPoint})
+		}
+	}
+	return out
+}
+
+func TestClipRefusesP7(t *testing.T) {
+	for _, c := range slices.Concat(badOps(), badPolygons()) {
+		if l, e := Clip(c.op, c.a, c.b); l != nil || e != c.want {
+			t.Errorf("Clip(%d, %v, %v) = %v, %d, want %d", c.op, c.a, c.b, l, e, c.want)
 		}
 	}
 }

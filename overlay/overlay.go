@@ -5,6 +5,7 @@ import (
 	"overlay/api"
 	"overlay/border"
 	"overlay/cut"
+	"overlay/nest"
 	"overlay/place"
 	"overlay/polygon"
 	"overlay/segment"
@@ -71,4 +72,10 @@ func Clip(op int, a [][]api.Point, b [][]api.Point) ([][]api.Point, api.Errno) {
 }
 
 // Nest tells which of the rings are holes, and in which others (P8).
-func Nest(op int, a [][]api.Point, b [][]api.Point) ([]int, api.Errno) { return nil, api.OK }
+func Nest(op int, a [][]api.Point, b [][]api.Point) ([]int, api.Errno) {
+	rings, e := Clip(op, a, b)
+	if e != api.OK {
+		return nil, e
+	}
+	return nest.Shells(rings), api.OK
+}

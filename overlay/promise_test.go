@@ -162,7 +162,7 @@ func TestPiecesAtAllListsP1(t *testing.T) {
 	}
 }
 
-func TestClipAtAllNumbersP1(t *testing.T) {
+func TestClipAndNestAtAllNumbersP1(t *testing.T) {
 	good := rings(box(-4, -4, 4, 4))
 	for _, p := range wildPoints() {
 		l := rings([]api.Point{at(-3, -7), p, at(9, 2)})
@@ -179,12 +179,16 @@ func TestClipAtAllNumbersP1(t *testing.T) {
 				if e != want || e != api.OK && got != nil {
 					t.Errorf("Clip(%d, %v, %v) = %v, %d, want the error %d", op, c[0], c[1], got, e, want)
 				}
+				shells, e := Nest(op, c[0], c[1])
+				if e != want || e != api.OK && shells != nil || len(shells) != len(got) {
+					t.Errorf("Nest(%d, %v, %v) = %v, %d, want the error %d, and a number for each of %v", op, c[0], c[1], shells, e, want, got)
+				}
 			}
 		}
 	}
 }
 
-func TestClipAtAllListsP1(t *testing.T) {
+func TestClipAndNestAtAllListsP1(t *testing.T) {
 	long := make([]api.Point, 1<<20)
 	for count := range 7 {
 		for _, r := range [][]api.Point{nil, {}, make([]api.Point, 1), make([]api.Point, 2), long} {
@@ -194,6 +198,9 @@ func TestClipAtAllListsP1(t *testing.T) {
 				for _, c := range [][2][][]api.Point{{l, nil}, {nil, l}, {l, l}} {
 					if got, e := Clip(op, c[0], c[1]); e != want || got != nil && e != api.OK || len(got) > 0 {
 						t.Errorf("Clip(%d, ..) of %d rings of %d points = %v, %d, want the error %d", op, count, len(r), got, e, want)
+					}
+					if got, e := Nest(op, c[0], c[1]); e != want || got != nil && e != api.OK || len(got) > 0 {
+						t.Errorf("Nest(%d, ..) of %d rings of %d points = %v, %d, want the error %d", op, count, len(r), got, e, want)
 					}
 				}
 			}
@@ -463,6 +470,68 @@ func TestClipKeepsNothingP2(t *testing.T) {
 				t.Errorf("round %d: Clip(%d, %v, %v) = %v, %d, want %v", round, c.op, a, b, l, e, c.want)
 			}
 			if l, e := Clip(5, a, b); l != nil || e != api.ErrOp {
+				t.Errorf("round %d: the refusal became %v, %d", round, l, e)
+			}
+		}
+	}
+}
+
+func TestNestLeavesItsArgumentsP2(t *testing.T) {
+	hollow := rings(box(0, 0, 9, 9), box(1, 1, 8, 8), box(2, 2, 7, 7))
+	for _, a := range append(somePolygons(), hollow) {
+		for _, b := range append(somePolygons(), hollow) {
+			for op := -1; op <= 5; op++ {
+				want, wantE := Nest(op, a, b)
+				v, w := watch(a), watch(b)
+				l, e := Nest(op, v.p, w.p)
+				if !slices.Equal(l, want) || e != wantE {
+					t.Errorf("Nest(%d, %v, %v) = %v, %d, then %v, %d", op, a, b, want, wantE, l, e)
+				}
+				if v.isChanged() || w.isChanged() {
+					t.Errorf("Nest(%d, %v, %v) wrote into what it was handed", op, a, b)
+				}
+				// The same lists twice, too.
+				twice, _ := Nest(op, v.p, v.p)
+				if v.isChanged() {
+					t.Errorf("Nest(%d, ..) of %v and itself wrote into it: %v", op, a, twice)
+				}
+			}
+		}
+	}
+}
+
+func TestNestComesFreshP2(t *testing.T) {
+	a, b := rings(box(0, 0, 9, 9), box(3, 3, 6, 6)), rings(box(1, 1, 8, 8), box(4, 4, 5, 5))
+	for op := range 5 {
+		first, _ := Nest(op, a, b)
+		want := slices.Clone(first)
+		second, _ := Nest(op, a, b)
+		first = first[:cap(first)]
+		for i := range first {
+			first[i] = 77
+		}
+		third, e := Nest(op, a, b)
+		if !slices.Equal(second, want) || !slices.Equal(third, want) || e != api.OK {
+			t.Errorf("when the first numbers of operation %d were written into, the second became %v, the third %v, %d", op, second, third, e)
+		}
+	}
+}
+
+func TestNestKeepsNothingP2(t *testing.T) {
+	a, b := rings(box(0, 0, 9, 9)), rings(box(2, 2, 4, 4))
+	for round := range 3 {
+		for _, c := range []struct {
+			op     int
+			corner api.Point
+			want   []int
+		}{
+			{api.Minus, at(4, 4), []int{-1, 0}}, {api.Minus, at(4, 40), []int{-1}}, {api.And, at(4, 4), []int{-1}}, {api.Xor, at(4, 40), []int{-1, -1}}, {api.Back, at(4, 4), nil},
+		} {
+			b[0][2] = c.corner
+			if l, e := Nest(c.op, a, b); !slices.Equal(l, c.want) || e != api.OK {
+				t.Errorf("round %d: Nest(%d, %v, %v) = %v, %d, want %v", round, c.op, a, b, l, e, c.want)
+			}
+			if l, e := Nest(5, a, b); l != nil || e != api.ErrOp {
 				t.Errorf("round %d: the refusal became %v, %d", round, l, e)
 			}
 		}
